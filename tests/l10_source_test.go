@@ -134,7 +134,7 @@ var (
 	dateShape   = `(?:jul|gre) [1-9][0-9]*-[1-9][0-9]*-[1-9][0-9]*`
 	regimeShape = lineShape(`regime ([a-z]{1,16})`)
 	rangeShape  = lineShape(`range (DATE) (DATE)`)
-	useShape    = lineShape(`use (jul|gre) (jan|march|lady|pisa|easter|sept|yule) (DATE) (DATE)(?: ([+-][1-9][0-9]{0,8}))?`)
+	useShape    = lineShape(`use (jul|gre) (jan|march|lady|pisa|easter|sept|yule) (DATE) (DATE)(?: ([+-][123]))?`)
 	patchShape  = lineShape(`patch (DATE) (jan|feb|mar|apr|may|jun|jul|aug|sep|oct|nov|dec) (0|[1-9][0-9]{0,8})`)
 	reignShape  = lineShape(`reign ([a-z]{1,16}) (DATE) (DATE)`)
 	ruleShape   = lineShape(`rule (day|style)`)
@@ -573,7 +573,7 @@ func TestCompileTiles(t *testing.T) {
 		{"an overlap beyond the range, and a hole", use("1-1", "1-31") + "use jul jan jul 1400-1-1 jul 1400-1-5\nuse gre jan jul 1400-1-5 jul 1400-2-5\n", impl.CompOverlap}, {"an overlap beyond the range", use("1-1", "12-31") + "use jul jan jul 1200-1-1 jul 1200-1-5\nuse gre jan jul 1200-1-5 jul 1200-2-5\n", impl.CompOverlap},
 		{"beyond the range alone", use("1-1", "12-31") + "use jul jan jul 1400-1-1 jul 1400-1-5\n", impl.CompOther}, {"across the end", "use jul jan jul 1300-1-1 jul 1301-1-1\n", impl.CompOther}, {"across the beginning", "use jul jan jul 1299-12-31 jul 1300-12-31\n", impl.CompOther},
 		{"without a day beside", use("1-1", "12-31") + back, impl.CompOther}, {"without a day, twice", use("1-1", "12-31") + back + back, impl.CompOther}, {"without a day and a hole", use("1-1", "12-30") + back, impl.CompHole}, {"without a day and an overlap", use("1-1", "12-31") + back + use("5-5", "5-5"), impl.CompOverlap},
-		{"a hole, and a patch beyond", use("1-1", "12-30") + "patch jul 1400-1-1 feb 30\n", impl.CompHole}, {"an overlap, and a wrong reign", use("1-1", "12-31") + use("5-5", "5-5") + "reign x jul 1300-1-2 jul 1300-1-1\n", impl.CompOverlap}, {"an overlap, and an Off of 4", use("1-1", "12-31") + "use jul jan jul 1300-5-5 jul 1300-5-5 +4\n", impl.CompOverlap}, {"an overlap, and no source", use("1-1", "12-31") + use("5-5", "5-5") + "x\n", impl.CompSyntax}, {"a hole, and no source", "x\n", impl.CompSyntax},
+		{"a hole, and a patch beyond", use("1-1", "12-30") + "patch jul 1400-1-1 feb 30\n", impl.CompHole}, {"an overlap, and a wrong reign", use("1-1", "12-31") + use("5-5", "5-5") + "reign x jul 1300-1-2 jul 1300-1-1\n", impl.CompOverlap}, {"an overlap, and no source", use("1-1", "12-31") + use("5-5", "5-5") + "x\n", impl.CompSyntax}, {"a hole, and no source", "x\n", impl.CompSyntax},
 	}
 	for _, c := range cases {
 		t.Run(c.what, func(t *testing.T) {
@@ -632,13 +632,82 @@ func TestCompileOffs(t *testing.T) {
 		ask(fmt.Sprint("+", off), off, impl.CompOk)
 		ask(fmt.Sprint("-", off), -off, impl.CompOk)
 	}
-	for _, far := range []string{"4", "5", "10", "300", "999999999"} {
-		ask("+"+far, 0, impl.CompOther)
-		ask("-"+far, 0, impl.CompOther)
+	for _, far := range farOffs {
+		ask(far, 0, impl.CompSyntax)
 	}
 	for _, tail := range []string{"", " ", "0", "+0", "-0", "1", "3", "4", "+", "-", "+-1", "-+1", "--1", "++1", "+01", "-01", "+00", "+1 ", "+1 +1", "+1 x", " +1", "+ 1", "+1\t", "+a", "+1a", "+1-", "\u22121", "+\u0661", "+1.0", "+1e0", "+0x1", "1+", "+1000000000", "-1000000000", "+4294967297", "+18446744073709551617", "-18446744073709551615", "+" + strings.Repeat("1", 3000), "+" + strings.Repeat("0", 3000) + "1", "\xff", "+\xff", "*1", ",1", "/1"} {
 		ask(tail, 0, impl.CompSyntax)
 	}
+}
+
+// farOffs are written as an OFF is, but no segment has them.
+var farOffs = strings.Fields("+4 -4 +5 -5 +6 -7 +8 +9 -9 +10 -10 -11 +12 +13 +21 -22 +30 +31 -32 +33 +300 -300 +256 +257 -259 +65537 +999999999 -999999999")
+
+// Promise 10: a text with an OFF that no segment has is no source, whatever else is wrong with what it tells.
+func TestCompileFarOffsAheadOfOtherCodes(t *testing.T) {
+	year := "use jul jan jul 1300-1-1 jul 1300-12-31"
+	bodies := []struct {
+		what, body string
+		want       int
+	}{
+		{"nothing else", year + "OFF\n", impl.CompOk}, {"an overlap", year + "OFF\n" + halfOne, impl.CompOverlap}, {"an overlap ahead", halfOne + year + "OFF\n", impl.CompOverlap}, {"a hole", halfOne[:len(halfOne)-1] + "OFF\n", impl.CompHole}, {"an overlap and a hole", halfOne + halfOne[:len(halfOne)-1] + "OFF\n", impl.CompOverlap},
+		{"a wrong patch", year + "OFF\npatch jul 1300-1-1 feb 32\n", impl.CompOther}, {"a wrong reign", "reign x jul 1300-1-2 jul 1300-1-1\n" + year + "OFF\n", impl.CompOther}, {"beyond the range", "use jul jan jul 1299-1-1 jul 1300-12-31OFF\n", impl.CompOther}, {"without a day", year + "\nuse jul jan jul 1300-5-5 jul 1300-5-4OFF\n", impl.CompOther}, {"no day of the line", year + "\nuse jul jan jul 1-1-1 jul 1-1-1OFF\n", impl.CompOther},
+	}
+	for _, c := range bodies {
+		t.Run(c.what, func(t *testing.T) {
+			for _, near := range []string{"", " +1", " -1", " +2", " -2", " +3", " -3"} {
+				if code := askByShape(t, headSource+strings.ReplaceAll(c.body, "OFF", near)); code != c.want {
+					t.Errorf("with%s: %d, want %d", near, code, c.want)
+				}
+			}
+			for _, far := range farOffs {
+				s := headSource + strings.ReplaceAll(c.body, "OFF", " "+far)
+				askCode(t, s, impl.CompSyntax)
+				askCode(t, s+strings.Repeat(halfOne, impl.MaxSegs-strings.Count(s, "use ")), impl.CompSyntax)
+				askCode(t, s+strings.Repeat(halfOne, impl.MaxSegs-strings.Count(s, "use ")+1), impl.CompBig)
+			}
+		})
+	}
+}
+
+func TestCompileKnownFarOff(t *testing.T) {
+	s := `regime sweden
+range jul 1581-3-16 jul 1582-6-4
+use gre lady jul 1581-3-16 jul 1581-11-12OFF
+use gre jan jul 1581-11-13 jul 1582-3-29
+use gre jan jul 1582-3-30 jul 1582-6-4
+rule style
+`
+	if code := askByShape(t, strings.ReplaceAll(s, "OFF", " +3")); code != impl.CompOk {
+		t.Errorf("+3: %d", code)
+	}
+	for _, far := range farOffs {
+		askCode(t, strings.ReplaceAll(s, "OFF", " "+far), impl.CompSyntax)
+	}
+}
+
+// An OFF is what stands in the SegText of some segment, for all texts of a sign and few digits.
+func TestCompileOffsAreThoseOfSegTexts(t *testing.T) {
+	s := impl.Segment{From: julDay(1300, 1, 1), To: julDay(1300, 12, 31), Cal: impl.CGre, Style: impl.YLady}
+	right := impl.Regime{Name: "a", From: s.From, To: s.To, Segs: []impl.Segment{s}}
+	known := map[string]int{}
+	for off := -1000; off <= 1000; off++ {
+		s.Off = off
+		if tail, ok := strings.CutPrefix(impl.SegText(s), "gre lady "); ok {
+			known[tail] = off
+		}
+	}
+	if len(known) != 6 {
+		t.Fatal(known)
+	}
+	eachText("+-01234", 5, func(tail string) {
+		r, code := impl.Regime{}, impl.CompSyntax
+		if off, ok := known[tail]; ok {
+			r, code = copyRegime(right), impl.CompOk
+			r.Segs[0].Off = off
+		}
+		askCompile(t, headSource+"use gre lady jul 1300-1-1 jul 1300-12-31 "+tail+"\n", r, code)
+	})
 }
 
 func TestCompileNumbers(t *testing.T) {
@@ -790,7 +859,7 @@ func longText(size int, extra string) string {
 
 func TestCompileAtMaxSource(t *testing.T) {
 	for size := impl.MaxSource - 5; size <= impl.MaxSource+5; size++ {
-		for extra, code := range map[string]int{"": impl.CompOther, halfOne: impl.CompOverlap, "x\n": impl.CompSyntax, "rule day\n": impl.CompOther, "rule day\nrule day\n": impl.CompSyntax} {
+		for extra, code := range map[string]int{"": impl.CompOther, halfOne: impl.CompOverlap, "x\n": impl.CompSyntax, halfOne[:len(halfOne)-1] + " +4\n": impl.CompSyntax, "rule day\n": impl.CompOther, "rule day\nrule day\n": impl.CompSyntax} {
 			if size > impl.MaxSource {
 				code = impl.CompBig
 			}
